@@ -136,6 +136,9 @@ func mustBeNoPackage(t *testing.T, p impl.Package, why string) {
 	if got := impl.ShowPackage(p); got != "" {
 		t.Errorf("%s: it is shown as %.80q", why, got)
 	}
+	if got := impl.Exports(p); len(got) != 0 {
+		t.Errorf("%s: Exports are %.80q", why, got)
+	}
 	mustHaveNoFunc(t, p, "f")
 	mustHaveNoFunc(t, p, "")
 	for _, f := range p.Funcs {

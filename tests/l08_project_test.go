@@ -86,6 +86,12 @@ func mustBeNoProject(t *testing.T, list []impl.Package, why string) {
 		if got := impl.Needs(list, name); len(got) != 0 {
 			t.Errorf("%.200s: Needs of %q is %q", why, name, got)
 		}
+		if got := impl.CallCode(list, name, 0, call("a", "f", 0)); got != -1 {
+			t.Errorf("%.200s: CallCode from %q is %d", why, name, got)
+		}
+	}
+	if got := impl.FaultOf(list); got != (impl.Fault{Code: impl.FaBad}) {
+		t.Errorf("%.200s: FaultOf is %v", why, got)
 	}
 }
 
