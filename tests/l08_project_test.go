@@ -89,6 +89,9 @@ func mustBeNoProject(t *testing.T, list []impl.Package, why string) {
 		if got := impl.CallCode(list, name, 0, call("a", "f", 0)); got != -1 {
 			t.Errorf("%.200s: CallCode from %q is %d", why, name, got)
 		}
+		if got := answered(list, name, "f", nil, 100); got != badAnswer {
+			t.Errorf("%.200s: Meant and Burnt of %q are %v", why, name, got)
+		}
 	}
 	if got := impl.FaultOf(list); got != (impl.Fault{Code: impl.FaBad}) {
 		t.Errorf("%.200s: FaultOf is %v", why, got)
