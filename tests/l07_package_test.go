@@ -139,6 +139,9 @@ func mustBeNoPackage(t *testing.T, p impl.Package, why string) {
 	if got := impl.Exports(p); len(got) != 0 {
 		t.Errorf("%s: Exports are %.80q", why, got)
 	}
+	if got := impl.FoldedPackage(p); !samePackage(got, impl.Package{}) {
+		t.Errorf("%s: folded it is %.80v", why, got)
+	}
 	mustHaveNoFunc(t, p, "f")
 	mustHaveNoFunc(t, p, "")
 	for _, f := range p.Funcs {
