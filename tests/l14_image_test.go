@@ -124,30 +124,35 @@ func parsed(s string) int64 {
 	return n
 }
 
-// imageOfText is strict: line by line, as many Ins as are told.
-func imageOfText(text string) (impl.Image, bool) {
-	m := impl.Image{}
+// routinesOfText is strict: line by line, as many Ins as are told.
+func routinesOfText(text string) ([]impl.Routine, bool) {
+	list := []impl.Routine{}
 	for text != "" {
 		head := headForm.FindStringSubmatch(text)
 		if head == nil {
-			return impl.Image{}, false
+			return nil, false
 		}
 		text = text[len(head[0]):]
 		r := impl.Routine{Name: head[1], Args: parsed(head[2])}
 		for range parsed(head[3]) {
 			said := insForm.FindStringSubmatch(text)
 			if said == nil {
-				return impl.Image{}, false
+				return nil, false
 			}
 			text = text[len(said[0]):]
 			r.Code = append(r.Code, insOf(parsed(said[1]), parsed(said[2]), parsed(said[3]), parsed(said[4]), strings.TrimPrefix(said[5], "-")))
 		}
-		m.Routines = append(m.Routines, r)
+		list = append(list, r)
 	}
-	if !imageRight(m) {
-		return impl.Image{}, false
+	return list, true
+}
+
+func imageOfText(text string) (impl.Image, bool) {
+	list, is := routinesOfText(text)
+	if m := (impl.Image{Routines: list}); is && imageRight(m) {
+		return m, true
 	}
-	return m, true
+	return impl.Image{}, false
 }
 
 // A machine has a heap of what was called, one on top of the other, and no
