@@ -843,9 +843,10 @@ func TestBuiltOfTheGreatest(t *testing.T) {
 }
 
 // changedProgram takes a copy of the program with one line of it another one,
-// and answers what Built of the copy says. No source is too long for the
-// program as it is, so that FaBig is told by one with a lower limit.
-func changedProgram(t *testing.T, file, line, other string) func(sources []string) string {
+// and answers what a main with this body prints, by the copy and by what it is
+// given. Some limits can't be come to in the program as it is, so that they are
+// told by one that has others.
+func changedProgram(t *testing.T, file, line, other, body string) func(given []string) string {
 	t.Helper()
 	files, err := filepath.Glob(filepath.Join("..", "impl", "*.go"))
 	if err != nil || len(files) == 0 {
@@ -877,16 +878,16 @@ func changedProgram(t *testing.T, file, line, other string) func(sources []strin
 		t.Fatalf("%q is %d times in %s", line, changed, file)
 	}
 	put("go.mod", "module loop.example/g00346\n\ngo 1.27\n")
-	put("main.go", "package main\n\nimport (\n\t\"os\"\n\n\t\"loop.example/g00346/impl\"\n)\n\nfunc main() { os.Stdout.WriteString(impl.Built(os.Args[1:])) }\n")
+	put("main.go", "package main\n\nimport (\n\t\"fmt\"\n\t\"os\"\n\n\t\"loop.example/g00346/impl\"\n)\n\nfunc main() {\n"+body+"\n}\n")
 	made := filepath.Join(copied, "made")
 	build := exec.Command("go", "build", "-o", made, ".")
 	build.Dir, build.Env = copied, append(os.Environ(), "GOWORK=off", "GOFLAGS=", "GOPROXY=off")
 	if said, err := build.CombinedOutput(); err != nil {
 		t.Fatalf("the copy is not built: %v\n%s", err, said)
 	}
-	return func(sources []string) string {
+	return func(given []string) string {
 		t.Helper()
-		said, err := exec.Command(made, sources...).Output()
+		said, err := exec.Command(made, given...).Output()
 		if err != nil {
 			t.Fatal(err)
 		}
@@ -896,7 +897,7 @@ func changedProgram(t *testing.T, file, line, other string) func(sources []strin
 
 // Where code may have 5 Ins at most, 6 of them are too long.
 func TestBuiltOfAnObjectThatIsZero(t *testing.T) {
-	built := changedProgram(t, "l13_code.go", "const MaxCode = 200", "const MaxCode = 5")
+	built := changedProgram(t, "l13_code.go", "const MaxCode = 200", "const MaxCode = 5", "fmt.Print(impl.Built(os.Args[1:]))")
 	for _, one := range []struct {
 		big   bool
 		texts []string
