@@ -263,16 +263,23 @@ func happenBy(g ground, w impl.World, a impl.Act) (impl.World, bool) {
 		}
 		return after, tickInPlace(&after, a.A)
 	case 8:
-		if !w.Up || !isBetween(a.A, 0, lastFrame(w.Desk.Journal)) {
+		if !w.Up || a.A < 0 {
 			return after, false
 		}
-		after.Up, after.Desk = false, impl.Desk{Journal: w.Desk.Journal[:len(w.Desk.Journal)-int(a.A)]}
+		lost := a.A
+		if last := lastFrame(w.Desk.Journal); lost > last {
+			lost = last
+		}
+		after.Up, after.Desk = false, impl.Desk{Journal: w.Desk.Journal[:len(w.Desk.Journal)-int(lost)]}
 	case 9:
 		if w.Up {
 			return after, false
 		}
 		after.Up, after.Desk = true, deskAfter(g.tasks, entriesBy(g.tasks, w.Desk.Journal))
 	case 10:
+		if w.Workers[a.A].Job == -1 {
+			return after, false
+		}
 		after.Workers[a.A] = impl.Worker{Job: -1}
 	case 11:
 		after.Cell += publishedBy(w)
@@ -1133,22 +1140,32 @@ func TestHappenFallAndRise(t *testing.T) {
 		{act(8), []change{says("ask 1"), job(0, 1, 1), now(7), cell("x"), has(9000, "abc"), ready(0, 7)}, []change{down(journalOf(started(1)))}},
 		{impl.Act{Kind: 8, A: 1, B: 7, C: -7}, nil, []change{down(journalOf(started(1))[:22])}},
 		{act(8, 23), nil, []change{down("")}},
-		{act(8, 24), nil, nil},
-		{act(8), []change{journal("")}, []change{down("")}},
-		{act(8, 1), []change{journal("")}, nil},
+		// What is lost is the last Frame at most, whatever is asked for.
+		{act(8, 24), nil, []change{down("")}},
+		{act(8, 99), []change{says("ask 1"), job(0, 1, 1), now(7), cell("x"), has(9000, "abc"), ready(0, 7)}, []change{down("")}},
+		{act(8, math.MaxInt64), []change{journal(journalOf(started(1), entry{0, 5}))}, []change{down(journalOf(started(1)))}},
 		// It has no Frame, or something behind the last one.
+		{act(8), []change{journal("")}, []change{down("")}},
+		{act(8, 1), []change{journal("")}, []change{down("")}},
 		{act(8), []change{journal("xyz")}, []change{down("xyz")}},
-		{act(8, 1), []change{journal("xyz")}, nil},
-		{act(8, 16), []change{journal(strings.Repeat("x", 30))}, nil},
+		{act(8, 1), []change{journal("xyz")}, []change{down("xyz")}},
+		{act(8, 99), []change{journal("xyz")}, []change{down("xyz")}},
+		{act(8, 16), []change{journal(strings.Repeat("x", 30))}, []change{down(strings.Repeat("x", 30))}},
 		{act(8, 23), []change{journal(journalOf(started(1)) + "xyz")}, []change{down(journalOf(started(1))[:3])}},
-		{act(8, 24), []change{journal(journalOf(started(1)) + "xyz")}, nil},
+		{act(8, 24), []change{journal(journalOf(started(1)) + "xyz")}, []change{down(journalOf(started(1))[:3])}},
 		{act(8, 16), []change{journal(frameBy(""))}, []change{down("")}},
-		{act(8, 17), []change{journal(frameBy("abc") + frameBy(""))}, nil},
+		{act(8, 17), []change{journal(frameBy("abc") + frameBy(""))}, []change{down(frameBy("abc"))}},
 		{act(8, 16+20000), []change{journal(frameBy("x") + frameBy(strings.Repeat("y", 20000)))}, []change{down(frameBy("x"))}},
-		{act(8, 17+20000), []change{journal(frameBy("x") + frameBy(strings.Repeat("y", 20000)))}, nil},
+		{act(8, 17+20000), []change{journal(frameBy("x") + frameBy(strings.Repeat("y", 20000)))}, []change{down(frameBy("x"))}},
+		// Below 0 it is out of range, whatever the Journal has.
+		{act(8, -1), []change{journal("")}, nil},
+		{act(8, -1), []change{journal("xyz")}, nil},
+		{act(8, -24), nil, nil},
 		// It is down already.
 		{act(8), []change{fallen}, nil},
 		{act(8, 1), []change{fallen}, nil},
+		{act(8, 24), []change{fallen}, nil},
+		{act(8, -1), []change{fallen}, nil},
 
 		{act(9), []change{fallen}, []change{func(w *impl.World) { w.Up, w.Desk = true, deskIn(t, "lib: open", "mid 0: open", "main 0 1: open") }, epoch(2), journal(journalOf(started(1), started(2)))}},
 		{act(9), []change{down("")}, []change{func(w *impl.World) { w.Up, w.Desk = true, deskIn(t, "lib: open", "mid 0: open", "main 0 1: open") }}},
@@ -1159,7 +1176,11 @@ func TestHappenFallAndRise(t *testing.T) {
 		{act(9), []change{now(7), journal("")}, nil},
 	}
 	for _, n := range notOf(24) {
-		list = append(list, happening{act(8, n), nil, nil})
+		then := []change{down("")}
+		if n < 0 {
+			then = nil
+		}
+		list = append(list, happening{act(8, n), nil, then})
 	}
 	mustComeAbout(t, list)
 	// At each number of bytes.
@@ -1168,13 +1189,11 @@ func TestHappenFallAndRise(t *testing.T) {
 		all := journalOf(entries...)
 		w := changed(g.newWorld(1, 9), journal(all))
 		last := int64(16 + len(entries[len(entries)-1].text()))
-		for lost := int64(-1); lost <= int64(len(all))+1; lost++ {
-			if lost < 0 || lost > last {
-				mustHappen(t, "falls", w, act(8, lost), w, false)
-				continue
-			}
+		mustHappen(t, "falls by -1", w, act(8, -1), w, false)
+		for most := int64(0); most <= int64(len(all))+1; most++ {
+			lost := min(most, last)
 			fell := changed(w, down(all[:len(all)-int(lost)]))
-			mustHappen(t, "falls", w, act(8, lost), fell, true)
+			mustHappen(t, "falls", w, act(8, most), fell, true)
 			kept := entries
 			if lost > 0 {
 				kept = entries[:len(entries)-1]
@@ -1182,12 +1201,14 @@ func TestHappenFallAndRise(t *testing.T) {
 			rose := worldCopied(w)
 			rose.Desk = deskAfter(g.tasks, kept)
 			mustHappen(t, "rises", fell, act(9), rose, true)
+			mustPlay(t, "falls and rises", w, []impl.Act{act(8, most), act(8), act(9), act(9)}, rose)
 		}
 	}
 	// Of more Frames than are read, the last that is read.
 	long := changed(g.newWorld(1, 9), journal(strings.Repeat(frameBy(""), 399)+frameBy("abc")+frameBy("defghi")))
-	mustHappen(t, "many Frames", long, act(8, 19), changed(long, down(long.Desk.Journal[:len(long.Desk.Journal)-19])), true)
-	mustHappen(t, "many Frames", long, act(8, 20), long, false)
+	fell := changed(long, down(long.Desk.Journal[:len(long.Desk.Journal)-19]))
+	mustHappen(t, "many Frames", long, act(8, 19), fell, true)
+	mustHappen(t, "many Frames", long, act(8, 20), fell, true)
 }
 
 func TestHappenDrop(t *testing.T) {
@@ -1196,14 +1217,23 @@ func TestHappenDrop(t *testing.T) {
 		{act(10, 1), []change{job(0, 0, 1), job(1, 1, 5), job(2, 2, 7)}, []change{idle(1)}},
 		{act(10, 2), []change{job(0, 0, 1), job(1, 1, 5), job(2, 2, 7), fallen}, []change{idle(2)}},
 		{impl.Act{Kind: 10, A: 1, B: 7, C: -7}, []change{job(1, 2, 1000), crowd(60, "x")}, []change{idle(1)}},
-		// One without a Job has none any more either.
-		{act(10, 1), nil, []change{idle(1)}},
-		{act(10, 1), []change{job(0, 0, 1), fallen}, []change{idle(1)}},
+		// One without a Job has nothing to drop.
+		{act(10, 0), nil, nil},
+		{act(10, 1), nil, nil},
+		{act(10, 1), []change{job(0, 0, 1), job(2, 0, 1)}, nil},
+		{act(10, 1), []change{job(0, 0, 1), fallen}, nil},
+		{act(10, 2), []change{says("job 2 0 1"), leased(0, 2, 10)}, nil},
 	}
 	for _, n := range notOf(3) {
 		list = append(list, happening{act(10, n), []change{job(0, 0, 1), job(1, 0, 1), job(2, 0, 1)}, nil})
 	}
 	mustComeAbout(t, list)
+	// What is dropped is not there to be dropped again, and may be had again.
+	w := changed(threeGround(t).newWorld(3, 9000), says("job 1 2 7"), job(1, 0, 1))
+	dropped := changed(w, idle(1))
+	mustHappen(t, "dropped", w, act(10, 1), dropped, true)
+	mustHappen(t, "dropped, again", dropped, act(10, 1), dropped, false)
+	mustPlay(t, "dropped, and again", w, []impl.Act{act(10, 1), act(10, 1), act(2), act(10, 1), act(10, 1)}, changed(dropped, goes...))
 }
 
 func TestHappenPublish(t *testing.T) {
@@ -1317,7 +1347,7 @@ func TestPlayByNumberOfActs(t *testing.T) {
 	}
 	mustPlay(t, "none", w, nil, w)
 	// What is refused is passed over, wherever it stands.
-	refused := []impl.Act{act(0), act(12), act(-1), act(1, 2), act(1, -1), act(2), act(3), act(4), act(5), act(6), act(7, -1), act(8, 24), act(9), act(10, 2), act(11), act(math.MaxInt64, 1, 1, 1)}
+	refused := []impl.Act{act(0), act(12), act(-1), act(1, 2), act(1, -1), act(2), act(3), act(4), act(5), act(6), act(7, -1), act(8, -1), act(9), act(10, 1), act(10, 2), act(11), act(math.MaxInt64, 1, 1, 1)}
 	mustPlay(t, "refused", w, refused, w)
 	for _, one := range refused {
 		mustPlay(t, "refused ahead", w, []impl.Act{one, act(7, 5)}, changed(w, now(5)))
@@ -1403,6 +1433,16 @@ func TestCalmWhereKeysClash(t *testing.T) {
 // drawnGround has few words in it.
 func drawnGround(c *chance) ground { return groundOf(drawnParts(c)) }
 
+// oneAtWork is mostly one that has a Job, where there is any, else that one.
+func oneAtWork(c *chance, w impl.World, worker int64) int64 {
+	for at, one := range w.Workers {
+		if one.Job != -1 && c.below(4) > 0 {
+			worker = int64(at)
+		}
+	}
+	return worker
+}
+
 // drawnAct is one of those that may well do something.
 func drawnAct(c *chance, w impl.World) impl.Act {
 	worker, number := int64(c.below(len(w.Workers))), int64(c.below(len(w.Net)+1))
@@ -1421,20 +1461,15 @@ func drawnAct(c *chance, w impl.World) impl.Act {
 	case n < 63:
 		return act(5, number, int64(c.below(42)), int64(c.below(258))-1)
 	case n < 79:
-		for at, one := range w.Workers {
-			if one.Job != -1 && c.below(4) > 0 {
-				worker = int64(at)
-			}
-		}
-		return act(6, worker)
-	case n < 85:
+		return act(6, oneAtWork(c, w, worker))
+	case n < 84:
 		return act(7, []int64{0, 1, 3, 10, 999970, int64(c.below(30)), edgeNumbers[c.below(len(edgeNumbers))]}[c.below(7)])
-	case n < 88:
-		return act(8, []int64{0, int64(c.below(30)), lastFrame(w.Desk.Journal) + int64(c.below(3)) - 1}[c.below(3)])
-	case n < 94:
+	case n < 87:
+		return act(8, []int64{0, int64(c.below(30)), lastFrame(w.Desk.Journal) + int64(c.below(3)) - 1, edgeNumbers[c.below(len(edgeNumbers))]}[c.below(4)])
+	case n < 92:
 		return act(9)
 	case n < 96:
-		return act(10, worker)
+		return act(10, oneAtWork(c, w, worker))
 	case n < 97:
 		return act(edgeNumbers[c.below(len(edgeNumbers))], worker, number)
 	}
@@ -1528,6 +1563,9 @@ func (f *farming) happen(t *testing.T, a impl.Act) {
 	if word, _ := letterSays(append(was.Net, impl.Letter{})[max(0, min(int(a.A), len(was.Net)))]); a.Kind == 2 && did && word != "" {
 		f.seen[fmt.Sprint(word, " ", !sameWorld(want, changed(was, net(slices.Delete(slices.Clone(was.Net), int(a.A), int(a.A+1))...))))]++
 	}
+	if a.Kind == 8 && did && a.A > lastFrame(was.Desk.Journal) {
+		f.seen["8 by more"]++
+	}
 	f.world, f.acts = got, append(f.acts, a)
 	f.mustKeepCell(t, was.Cell)
 }
@@ -1568,9 +1606,9 @@ func TestWhateverHappens(t *testing.T) {
 		}
 	}
 	for what, least := range map[string]int{
-		"published": 100, "calm": 300, "calm, no time": 20, "calm, a clash": 30, "calm, no Room": 100, "ask true": 1000, "ask false": 100, "job true": 500, "job false": 50, "done true": 300, "done false": 100,
+		"published": 100, "calm": 300, "calm, no time": 20, "calm, a clash": 30, "calm, no Room": 100, "ask true": 1000, "ask false": 100, "job true": 500, "job false": 30, "done true": 300, "done false": 100,
 		"1 true": 1000, "1 false": 300, "2 true": 3000, "2 false": 1000, "3 true": 300, "3 false": 100, "4 true": 200, "4 false": 50, "5 true": 200, "5 false": 100, "6 true": 500, "6 false": 500, "7 true": 300, "7 false": 100,
-		"8 true": 200, "8 false": 50, "9 true": 200, "9 false": 300, "10 true": 100, "10 false": 10, "11 true": 100, "11 false": 300,
+		"8 true": 200, "8 false": 50, "8 by more": 50, "9 true": 200, "9 false": 300, "10 true": 60, "10 false": 300, "11 true": 100, "11 false": 300,
 	} {
 		if seen[what] < least {
 			t.Errorf("of %q there were %d: %v", what, seen[what], seen)
@@ -1615,7 +1653,7 @@ func TestCalmAfterManyFalls(t *testing.T) {
 			for _, a := range []impl.Act{act(1, 1), act(2), act(2), act(6, 1), act(2)} {
 				f.happen(t, a)
 			}
-			f.happen(t, act(8, int64(c.below(int(lastFrame(f.world.Desk.Journal))+1))))
+			f.happen(t, act(8, int64(c.below(int(lastFrame(f.world.Desk.Journal))+9))))
 			f.happen(t, act(9))
 			f.mustComeOut(t)
 		}
